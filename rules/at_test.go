@@ -169,13 +169,13 @@ func TestUnmade(t *testing.T) { // P11.4
 	}
 }
 
-func TestType(t *testing.T) { // P11.3: a class of the program, an array, and what is neither
+func TestType(t *testing.T) { // P11.3: a class of the program, an array of one or of numbers, and what is neither
 	for _, s := range []spot{usual, {"C", "u ()I", 0}} {
 		x := s.place()
 		for _, c := range []struct{ label, want string }{
 			{"class A", "LA;"}, {"class again A", "LA;"}, {"class C", "LC;"}, {"class G", "LG;"}, {"class Object", "LObject;"}, {"class Sys", "LSys;"}, {"class Throwable", "LThrowable;"}, {"class DivError", "LDivError;"},
-			{"class [I", "[I"}, {"class [[[[I", "[[[[I"}, {"class [LA;", "[LA;"}, {"class [[[[LA;", "[[[[LA;"}, {"class [LNone;", "[LNone;"}, {"class [J", "[J"},
-			{"class None", ""}, {"class LA;", ""}, {"class ", ""}, {"class ()V", ""}, {"class [V", ""}, {"class A.B", ""}, {"class [", ""}, {"class I", ""}, {"class [[[[[I", ""},
+			{"class [I", "[I"}, {"class [[[[I", "[[[[I"}, {"class [LA;", "[LA;"}, {"class [[[[LA;", "[[[[LA;"}, {"class [J", "[J"}, {"class [LG;", "[LG;"}, {"class [LObject;", "[LObject;"}, {"class [LSys;", "[LSys;"}, {"class [[LDivError;", "[[LDivError;"},
+			{"class None", ""}, {"class [LNone;", ""}, {"class [[LNone;", ""}, {"class [[[[LNone;", ""}, {"class [Lnone;", ""}, {"class [LAA;", ""}, {"class LA;", ""}, {"class ", ""}, {"class ()V", ""}, {"class [V", ""}, {"class A.B", ""}, {"class [", ""}, {"class I", ""}, {"class [[[[[I", ""},
 			{"none", ""}, {"int", ""}, {"long", ""}, {"text A", ""}, {"text [I", ""}, {"name f I", ""}, {"field A f I", ""}, {"method A v ()V", ""},
 		} {
 			var want api.Type
@@ -224,6 +224,46 @@ func TestTypeByClass(t *testing.T) { // P11.3: the pool is that of the place's c
 		for place, name := range map[int]string{1: "A" + strconv.Itoa(n), 9: "A" + strconv.Itoa(2-n), 3: "Object"} {
 			if got, e := x.Type(place); e != api.OK || got != (api.Type{K: api.KRef, Name: name}) {
 				t.Errorf("of the class %d: Type(%d): %v, %d", n, place, got, e)
+			}
+		}
+	}
+}
+
+func TestTypeOfMissing(t *testing.T) { // P11.2, P11.3: a text is a type where the class that it names is in the program, before the place's class or behind it; so is what arrays are of
+	utf := func(s string) api.Const { return api.Const{Tag: api.CUtf8, Text: s} }
+	class := func(name, text string) api.Class { // at 10 it has the class with that text
+		c := api.Class{This: 2, Super: 4, Pool: []api.Const{{}, utf(name), {Tag: api.CClass, A: 1}, utf("Object"), {Tag: api.CClass, A: 3}, utf("main"), utf("()V"), utf("Code"), {Tag: api.CInt}, utf(text), {Tag: api.CClass, A: 9}}}
+		c.Methods = []api.Method{{Flags: api.Static, Name: 5, Desc: 6, Stack: 1, Code: []byte{177}}}
+		return c
+	}
+	steps := []struct{ name, frame string }{{"anewarray", "|I"}, {"checkcast", "|N"}, {"instanceof", "|N"}}
+	for text, dims := range map[string]int{"None": 0, "[LNone;": 1, "[[LNone;": 2, "[[[LNone;": 3} {
+		for _, c := range []struct {
+			names string // of the classes, in order
+			own   int    // which of them is asked
+			e     api.Errno
+		}{{"A", 0, api.ErrMissing}, {"A Non none None1 LNone", 0, api.ErrMissing}, {"A None", 0, api.OK}, {"None A", 1, api.OK}, {"A B None", 1, api.OK}, {"None", 0, api.OK}} {
+			var l []api.Class
+			for _, name := range strings.Fields(c.names) {
+				l = append(l, class(name, text))
+			}
+			p, e := link.Build(l)
+			if e != api.OK {
+				t.Fatalf("Build of %s: %d", c.names, e)
+			}
+			x, _ := rules.At(p, firstOwn+c.own, 0)
+			var want api.Type
+			if c.e == api.OK {
+				want = typesOf(strings.Repeat("[", dims) + "LNone;")[0]
+			}
+			if got, e := x.Type(10); got != want || e != c.e {
+				t.Errorf("of %s: Type of %s: %v, %d", c.names, text, got, e)
+			}
+			for _, s := range steps {
+				f, e := x.Step(api.Instr{Op: op(s.name), A: 10}, frameOf(s.frame))
+				if e != c.e || e != api.OK && !zero(f) {
+					t.Errorf("of %s: %s of %s: %s, %d", c.names, s.name, text, show(f), e)
+				}
 			}
 		}
 	}

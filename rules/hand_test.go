@@ -261,12 +261,12 @@ func (h *hand) textOf(label string) (string, bool) {
 	return "", false
 }
 
-// typeByHand answers the type of a class's text.
+// typeByHand answers the type of a class's text, if all that it names is in the program.
 func typeByHand(s string) (api.Type, bool) {
 	switch s {
 	case "A", "B", "C", "E", "F", "G", "Object", "Throwable", "Thread", "Sys", "DivError":
 		return api.Type{K: api.KRef, Name: s}, true
-	case "[I", "[J", "[[[I", "[[[[I", "[LA;", "[[LB;", "[[[LA;", "[[[[LA;", "[LNone;", "[[[[LNone;":
+	case "[I", "[J", "[[[I", "[[[[I", "[LA;", "[[LB;", "[[[LA;", "[[[[LA;", "[LG;", "[LObject;", "[LSys;", "[[LDivError;":
 		return typesOf(s)[0], true
 	}
 	return api.Type{}, false

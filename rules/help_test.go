@@ -77,7 +77,7 @@ func (m *maker) member(tag int, class, name, desc string) int {
 var (
 	fieldsAsked  = "A s I;A t LA~;A w J;A f I;A g J;A h LA~;A k [[LB~;A both I;B both I;B f I;B s J;B s I;B t LA~;B g J;B m LB~;B o LNone~;C s J;C f I;C g J;C k [[LB~;C m LB~;F f I;A none I;A f J;B h LB~;None f I;Object f I;[I f I;[LA~ g J;Sys s I;A v ()V;G f I"
 	methodsAsked = "A <init> ()V;A <init> (IJLA~)V;A v ()V;A v (I)I;A w (JLA~[I)LB~;A y ()V;A z (IJ)J;A x (LA~[LA~)[I;A n ()LNone~;A l ()J;A main ()V;B <init> ()V;B <init> (I)V;B <init> (IJLA~)V;B v (I)I;B v ()V;B own ([[J)[LA~;B a ()[[LA~;B y ()V;B z (IJ)J;C <init> (J)V;C <init> ()V;C u ()I;C p (IJLA~[I[[LB~LObject~)V;C v (I)I;C w (JLA~[I)LB~;C x (LA~[LA~)[I;E <init> ()V;F <init> ()V;F v ()V;G run ()V;G start ()V;G <init> ()V;G join ()V;Object <init> ()V;Object wait ()V;Object notifyAll ()V;A wait ()V;E notify ()V;Thread run ()V;Thread <init> ()V;Throwable <init> ()V;DivError <init> ()V;Sys read ()I;Sys clock ()J;Sys write (J)V;Sys wait ()V;Sys <init> ()V;None v ()V;None <init> ()V;[I wait ()V;[I <init> ()V;[LA~ v ()V;A none ()V;A v (J)I;A <init> (J)V;A f I;F v (I)I"
-	classesAsked = "A;B;C;E;F;G;Object;Throwable;Thread;Sys;DivError;None;[I;[J;[[[I;[[[[I;[LA~;[[LB~;[[[LA~;[[[[LA~;[LNone~;[[[[LNone~;[[[[[I;LA~;;()V;[V;A.B;[;I"
+	classesAsked = "A;B;C;E;F;G;Object;Throwable;Thread;Sys;DivError;None;[I;[J;[[[I;[[[[I;[LA~;[[LB~;[[[LA~;[[[[LA~;[LNone~;[[[[LNone~;[[[[[I;LA~;;()V;[V;A.B;[;I;[[LNone~;[LG~;[LObject~;[LSys~;[[LDivError~;[Lnone~;[LAA~"
 )
 
 // parts cuts a list of what is asked. In it ~ stands for the ; of descriptors.

@@ -10,11 +10,11 @@ import (
 	"understudy/pool"
 )
 
-// typeAt answers the type of the class at the place n of the pool, and whether there is one, a class of the program or an array.
+// typeAt answers the type of the class at the place n of the pool, and whether there is one. A class that it names, alone or in an array, must be in the program.
 func (x *Place) typeAt(n int) (api.Type, bool) {
 	text, _ := pool.Class(x.pool, n)
 	t, isType := maps.Type(text) // where no class is the text is empty, which is no type's
-	if !isType || t.K == api.KRef && x.program.Find(t.Name) < 0 {
+	if !isType || namesClass(t) && x.program.Find(t.Name) < 0 {
 		return api.Type{}, false
 	}
 	return t, true

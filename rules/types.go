@@ -49,6 +49,17 @@ func isReference(t api.Type) bool {
 	return isBegun(t)
 }
 
+// namesClass tells types that name a class: those of its objects, and of arrays of them.
+func namesClass(t api.Type) bool {
+	switch t.K {
+	case api.KRef:
+		return true
+	case api.KArray:
+		return t.Elem == api.KRef
+	}
+	return false
+}
+
 // arrayOf answers the type of an array that holds t, which may have too many dimensions.
 func arrayOf(t api.Type) api.Type {
 	if t.K == api.KArray {
